@@ -192,6 +192,10 @@ func checkTwo(t *testing.T, name string, a, b impl.Graph) {
 		if alike := graphsAlike(impl.Shrink(a), impl.Shrink(b)); alike != same {
 			t.Fatalf("%s: Same %v, but the shrunk ones alike %v", name, same, alike)
 		}
+		x, y := impl.Freeze(impl.Shrink(a)), impl.Freeze(impl.Shrink(b))
+		if (x != "" || y != "") && (x == y) != same {
+			t.Fatalf("%s: Same %v, but the shrunk ones' texts are\n%s\n%s", name, same, x, y)
+		}
 		checkParting(t, name, a, b, path, same)
 	}
 	if !graphsAlike(a, a0) || !graphsAlike(b, b0) {
